@@ -1,0 +1,68 @@
+// Package suffixes: the suffixes of a text in order, and what neighbours share: see DOC.md.
+package suffixes
+
+import (
+	"suffixes/api"
+	"suffixes/texts"
+)
+
+// Scan tells whether a text is one over the alphabet 0 to k-1 (P3).
+func Scan(text []int, k int) (api.Errno, int) {
+	return texts.Scan(text, k)
+}
+
+// Dense numbers the symbols of a text anew (P4).
+func Dense(text []int, k int) ([]int, int, api.Errno) {
+	fault := texts.Fault(text, k)
+	if fault != api.OK {
+		return nil, 0, fault
+	}
+	dense, count := texts.Dense(text)
+	return dense, count, api.OK
+}
+
+// Buckets tells where the suffixes of each symbol begin (P4).
+func Buckets(text []int, k int) ([]int, api.Errno) {
+	fault := texts.Fault(text, k)
+	if fault != api.OK {
+		return nil, fault
+	}
+	return texts.Buckets(text), api.OK
+}
+
+// Kinds tells of each suffix whether it is greater than the next one (P5).
+func Kinds(text []int, k int) (string, api.Errno) {
+	fault := texts.Fault(text, k)
+	if fault != api.OK {
+		return "", fault
+	}
+	return texts.Kinds(text), api.OK
+}
+
+// CheckOrder tells whether a list is the suffixes' order (P6).
+func CheckOrder(text []int, order []int) bool {
+	return texts.IsOrder(text, order)
+}
+
+// Ranks ranks the suffixes by their first h symbols (P7).
+func Ranks(text []int, k int, h int) ([]int, api.Errno) { return nil, api.OK }
+
+// Build sorts the suffixes (P8 to P10, P13, P15).
+func Build(text []int, k int, way int, by int, check bool) (*api.Result, api.Errno) {
+	return nil, api.OK
+}
+
+// Before tells of each suffix which one stands ahead of it (P11).
+func Before(text []int, k int) ([]int, api.Errno) { return nil, api.OK }
+
+// Longest tells of each suffix what it shares with the one ahead of it (P11).
+func Longest(text []int, k int) ([]int, api.Errno) { return nil, api.OK }
+
+// CheckShared tells whether lists are the order and what neighbours share (P11).
+func CheckShared(text []int, order []int, shared []int) bool { return false }
+
+// Reduce tells the marks of a text and their names (P12).
+func Reduce(text []int, k int) ([]int, []int, api.Errno) { return nil, nil, api.OK }
+
+// Turns tells the turns of a text, in the order of their suffixes (P14).
+func Turns(text []int, k int) ([]int, api.Errno) { return nil, api.OK }
