@@ -43,6 +43,36 @@ func TestErrorsComeAloneP1(t *testing.T) {
 	}
 }
 
+// withOption is the answer to a text with that fault, if the option is there or not.
+func withOption(fault api.Errno, there bool) api.Errno {
+	if fault == api.OK && !there {
+		return api.ErrOption
+	}
+	return fault
+}
+
+func TestOptionsComeAfterTextsP1(t *testing.T) {
+	for _, text := range oddLists() {
+		for _, k := range oddNumbers() {
+			textFault := faultOf(text, k)
+			for _, option := range oddNumbers() {
+				want := withOption(textFault, option >= 0)
+				if ranks, fault := suffixes.Ranks(text, k, option); fault != want || fault != api.OK && ranks != nil {
+					t.Errorf("Ranks(%v, %d, %d) = %v, %d, want %d", text, k, option, ranks, fault, want)
+				}
+				want = withOption(textFault, option >= 0 && option <= 2)
+				if built, fault := suffixes.Build(text, k, option, 0, true); fault != want || (fault == api.OK) != (built != nil) {
+					t.Errorf("Build(%v, %d, way %d) = %v, %d, want %d", text, k, option, built, fault, want)
+				}
+				want = withOption(textFault, option == 0 || option == 1)
+				if built, fault := suffixes.Build(text, k, 0, option, true); fault != want || (fault == api.OK) != (built != nil) {
+					t.Errorf("Build(%v, %d, by %d) = %v, %d, want %d", text, k, option, built, fault, want)
+				}
+			}
+		}
+	}
+}
+
 func TestCheckOrderTakesAllListsP1(t *testing.T) {
 	for _, text := range oddLists() {
 		isText := len(text) <= 96 && !slices.ContainsFunc(text, func(symbol int) bool { return symbol < 0 })
@@ -70,6 +100,24 @@ func TestWhatIsHandedInStaysP2(t *testing.T) {
 			suffixes.Dense(text, k)
 			suffixes.Buckets(text, k)
 			suffixes.Kinds(text, k)
+			if !slices.Equal(whole, before) {
+				t.Errorf("a call with the text %v and k %d left %v", list, k, whole)
+			}
+		}
+	}
+}
+
+func TestRanksAndBuildLeaveTheTextP2(t *testing.T) {
+	for _, list := range append(oddLists(), longTexts()...) {
+		for _, k := range []int{0, 1, 3, math.MaxInt} {
+			text, whole := lend(list)
+			before := slices.Clone(whole)
+			for _, option := range []int{-1, 0, 1, 2, 3, math.MaxInt} {
+				suffixes.Ranks(text, k, option)
+				suffixes.Build(text, k, option, api.Kasai, false)
+				suffixes.Build(text, k, option, api.Phi, true)
+				suffixes.Build(text, k, api.Doubling, option, true)
+			}
 			if !slices.Equal(whole, before) {
 				t.Errorf("a call with the text %v and k %d left %v", list, k, whole)
 			}
@@ -126,6 +174,80 @@ func TestListsThatComeOutShareNothingP2(t *testing.T) {
 		if !slices.Equal(dense, wantDense) || againCount != count || !slices.Equal(starts, wantStarts) || againKinds != kinds {
 			t.Fatalf("the second answers for %v are others", list)
 		}
+	}
+}
+
+func TestRanksSharesNothingP2(t *testing.T) {
+	const k = math.MaxInt
+	for _, list := range texts() {
+		for _, h := range []int{0, 1, 2, k} {
+			text, whole := lend(list)
+			before := slices.Clone(whole)
+			want := ranksOf(list, h)
+			ranks, _ := suffixes.Ranks(text, k, h)
+			other, _ := suffixes.Ranks(text, k, h)
+			spoil(other)
+			if !slices.Equal(ranks, want) || !slices.Equal(whole, before) {
+				t.Fatalf("Ranks(%v, %d) shares its list", list, h)
+			}
+			spoil(ranks)
+			if again, _ := suffixes.Ranks(text, k, h); !slices.Equal(again, want) {
+				t.Fatalf("the second Ranks(%v, %d) = %v, want %v", list, h, again, want)
+			}
+		}
+	}
+}
+
+func TestBuildSharesNothingP2(t *testing.T) {
+	const k = math.MaxInt
+	for _, list := range texts() {
+		order, shared := orderOf(list), sharedOf(list)
+		for option := range 6 {
+			way, by := option%3, option/3
+			text, whole := lend(list)
+			before := slices.Clone(whole)
+			first, _ := suffixes.Build(text, k, way, by, true)
+			other, _ := suffixes.Build(text, k, way, by, true)
+			if first == nil || other == nil || first == other {
+				t.Fatalf("Build(%v, way %d, by %d) gives %p, then %p", list, way, by, first, other)
+			}
+			work := first.Work
+			other.Work = -1
+			spoil(other.Order)
+			if !slices.Equal(other.Shared, shared) {
+				t.Fatalf("Order and Shared of Build(%v, way %d, by %d) share something", list, way, by)
+			}
+			spoil(other.Shared)
+			if !isResult(first, api.Result{Order: order, Shared: shared, Work: work}) || !slices.Equal(whole, before) {
+				t.Fatalf("Build(%v, way %d, by %d) shares its lists", list, way, by)
+			}
+			spoil(first.Shared)
+			if !slices.Equal(first.Order, order) {
+				t.Fatalf("Shared and Order of Build(%v, way %d, by %d) share something", list, way, by)
+			}
+			spoil(first.Order)
+			again, _ := suffixes.Build(text, k, way, by, true)
+			if !isResult(again, api.Result{Order: order, Shared: shared, Work: work}) {
+				t.Fatalf("the last Build(%v, way %d, by %d) = %v", list, way, by, again)
+			}
+		}
+	}
+}
+
+func TestRanksAndBuildKeepNoTextP2(t *testing.T) {
+	text := []int{1, 0, 2, 0, 2, 0}
+	ranks, _ := suffixes.Ranks(text, 3, 2)
+	built, _ := suffixes.Build(text, 3, api.Doubling, api.Kasai, true)
+	for i := range text {
+		text[i] = 1
+	}
+	if !slices.Equal(ranks, []int{3, 1, 4, 1, 4, 0}) || !isResult(built, api.Result{Order: []int{5, 3, 1, 0, 4, 2}, Shared: []int{0, 1, 3, 0, 0, 2}, Work: 2}) {
+		t.Errorf("answers changed with the text: %v, %v", ranks, built)
+	}
+	ranks, _ = suffixes.Ranks(text, 3, 2)
+	built, _ = suffixes.Build(text, 3, api.Doubling, api.Kasai, true)
+	if !slices.Equal(ranks, []int{1, 1, 1, 1, 1, 0}) || !isResult(built, api.Result{Order: []int{5, 4, 3, 2, 1, 0}, Shared: []int{0, 1, 2, 3, 4, 5}, Work: 3}) {
+		t.Errorf("answers for the changed text: %v, %v", ranks, built)
 	}
 }
 

@@ -3,6 +3,8 @@ package suffixes
 
 import (
 	"suffixes/api"
+	"suffixes/neighbours"
+	"suffixes/ranks"
 	"suffixes/texts"
 )
 
@@ -45,11 +47,41 @@ func CheckOrder(text []int, order []int) bool {
 }
 
 // Ranks ranks the suffixes by their first h symbols (P7).
-func Ranks(text []int, k int, h int) ([]int, api.Errno) { return nil, api.OK }
+func Ranks(text []int, k int, h int) ([]int, api.Errno) {
+	fault := texts.Fault(text, k)
+	if fault != api.OK {
+		return nil, fault
+	}
+	if h < 0 {
+		return nil, api.ErrOption
+	}
+	return ranks.ByFirst(text, h), api.OK
+}
 
 // Build sorts the suffixes (P8 to P10, P13, P15).
+// Nothing reads check, since nothing of the answer may hang on it.
 func Build(text []int, k int, way int, by int, check bool) (*api.Result, api.Errno) {
-	return nil, api.OK
+	fault := texts.Fault(text, k)
+	if fault != api.OK {
+		return nil, fault
+	}
+	if way != api.Doubling && way != api.Induced && way != api.Turned {
+		return nil, api.ErrOption
+	}
+	if by != api.Kasai && by != api.Phi {
+		return nil, api.ErrOption
+	}
+	order, work := ranks.Order(text)
+	shared := sharedBy(text, order, by)
+	return &api.Result{Order: order, Shared: shared, Work: work}, api.OK
+}
+
+// sharedBy tells what neighbours of the order share, found in one of the two ways.
+func sharedBy(text []int, order []int, by int) []int {
+	if by == api.Phi {
+		return neighbours.Phi(text, order)
+	}
+	return neighbours.Kasai(text, order)
 }
 
 // Before tells of each suffix which one stands ahead of it (P11).

@@ -16,7 +16,7 @@ func IsOrder(text []int, order []int) bool {
 	}
 	// Suffixes that rise are all different, so with this no place stands twice, and none is missing.
 	for i := 1; i < len(order); i++ {
-		if !lesser(text[order[i-1]:], text[order[i]:]) {
+		if !Lesser(text[order[i-1]:], text[order[i]:]) {
 			return false
 		}
 	}
@@ -33,8 +33,8 @@ func allFrom0(list []int) bool {
 	return true
 }
 
-// lesser tells whether the list a is lesser than the list b.
-func lesser(a []int, b []int) bool {
+// Lesser tells whether the list a is lesser than the list b.
+func Lesser(a []int, b []int) bool {
 	for i := 0; i < len(a) && i < len(b); i++ {
 		if a[i] != b[i] {
 			return a[i] < b[i]

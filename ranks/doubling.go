@@ -1,0 +1,65 @@
+package ranks
+
+// Order sorts the suffixes by their first 1, 2, 4 .. symbols, and tells how often the beginnings were doubled.
+func Order(text []int) ([]int, int) {
+	ranks := ByFirst(text, 1)
+	rounds := 0
+	// Beginnings as long as the text are whole suffixes, no two of which are the same.
+	for h := 1; h < len(text) && !allDifferent(ranks); h = 2 * h {
+		ranks = doubled(ranks, h)
+		rounds++
+	}
+	return placesByRank(ranks), rounds
+}
+
+// allDifferent tells whether no number of a list stands there twice.
+func allDifferent(list []int) bool {
+	for i := 0; i < len(list); i++ {
+		for j := 0; j < i; j++ {
+			if list[j] == list[i] {
+				return false
+			}
+		}
+	}
+	return true
+}
+
+// doubled makes the ranks by the first 2h symbols from those by the first h; h is 1 or more.
+func doubled(ranks []int, h int) []int {
+	longer := make([]int, len(ranks))
+	for i := 0; i < len(ranks); i++ {
+		for j := 0; j < len(ranks); j++ {
+			if isLesser(ranks, h, j, i) {
+				longer[i]++
+			}
+		}
+	}
+	return longer
+}
+
+// isLesser tells whether the first 2h symbols at the place a are lesser than those at b.
+func isLesser(ranks []int, h int, a int, b int) bool {
+	if ranks[a] != ranks[b] {
+		return ranks[a] < ranks[b]
+	}
+	behindA := rankAt(ranks, a+h)
+	behindB := rankAt(ranks, b+h)
+	return behindA < behindB
+}
+
+// rankAt is the rank of a place; behind the text nothing is left, and that is lesser than every suffix.
+func rankAt(ranks []int, place int) int {
+	if place < len(ranks) {
+		return ranks[place]
+	}
+	return -1
+}
+
+// placesByRank lists the places by their ranks, which are all different and below the list's length.
+func placesByRank(ranks []int) []int {
+	order := make([]int, len(ranks))
+	for i := 0; i < len(ranks); i++ {
+		order[ranks[i]] = i
+	}
+	return order
+}
