@@ -1,7 +1,13 @@
 package ranks
 
-// Order sorts the suffixes by their first 1, 2, 4 .. symbols, and tells how often the beginnings were doubled.
-func Order(text []int) ([]int, int) {
+// Sorted is the order of a text, and how often beginnings were doubled to find it.
+type Sorted struct {
+	Order  []int
+	Rounds int
+}
+
+// Sort sorts the suffixes by their first 1, 2, 4 .. symbols.
+func Sort(text []int) Sorted {
 	ranks := ByFirst(text, 1)
 	rounds := 0
 	// Beginnings as long as the text are whole suffixes, no two of which are the same.
@@ -9,7 +15,7 @@ func Order(text []int) ([]int, int) {
 		ranks = doubled(ranks, h)
 		rounds++
 	}
-	return placesByRank(ranks), rounds
+	return Sorted{Order: placesByRank(ranks), Rounds: rounds}
 }
 
 // allDifferent tells whether no number of a list stands there twice.

@@ -39,6 +39,12 @@ func TestErrorsComeAloneP1(t *testing.T) {
 			if kinds, fault := suffixes.Kinds(text, k); fault != want || fault != api.OK && kinds != "" {
 				t.Errorf("Kinds(%v, %d) = %q, %d, want %d", text, k, kinds, fault, want)
 			}
+			if before, fault := suffixes.Before(text, k); fault != want || fault != api.OK && before != nil {
+				t.Errorf("Before(%v, %d) = %v, %d, want %d", text, k, before, fault, want)
+			}
+			if longest, fault := suffixes.Longest(text, k); fault != want || fault != api.OK && longest != nil {
+				t.Errorf("Longest(%v, %d) = %v, %d, want %d", text, k, longest, fault, want)
+			}
 		}
 	}
 }
@@ -85,6 +91,22 @@ func TestCheckOrderTakesAllListsP1(t *testing.T) {
 	}
 }
 
+func TestCheckSharedTakesAllListsP1(t *testing.T) {
+	for _, text := range oddLists() {
+		isText := len(text) <= 96 && !slices.ContainsFunc(text, func(symbol int) bool { return symbol < 0 })
+		order, shared := orderOf(text), sharedOf(text)
+		for _, places := range append(oddLists(), order) {
+			isOrder := isText && slices.Equal(places, order)
+			for _, list := range append(oddLists(), shared) {
+				want := isOrder && slices.Equal(list, shared)
+				if got := suffixes.CheckShared(text, places, list); got != want {
+					t.Errorf("CheckShared(%v, %v, %v) = %v", text, places, list, got)
+				}
+			}
+		}
+	}
+}
+
 // lend hands out a list with spare room behind it, and all of that as one list.
 func lend(list []int) ([]int, []int) {
 	whole := append(slices.Clone(list), -7, 3, -7, 3)
@@ -100,6 +122,8 @@ func TestWhatIsHandedInStaysP2(t *testing.T) {
 			suffixes.Dense(text, k)
 			suffixes.Buckets(text, k)
 			suffixes.Kinds(text, k)
+			suffixes.Before(text, k)
+			suffixes.Longest(text, k)
 			if !slices.Equal(whole, before) {
 				t.Errorf("a call with the text %v and k %d left %v", list, k, whole)
 			}
@@ -134,6 +158,23 @@ func TestCheckOrderLeavesItsListsP2(t *testing.T) {
 			suffixes.CheckOrder(text, order)
 			if !slices.Equal(wholeText, beforeText) || !slices.Equal(wholeOrder, beforeOrder) {
 				t.Errorf("CheckOrder(%v, %v) left %v, %v", list, places, wholeText, wholeOrder)
+			}
+		}
+	}
+}
+
+func TestCheckSharedLeavesItsListsP2(t *testing.T) {
+	for _, list := range append(oddLists(), longTexts()...) {
+		for _, places := range [][]int{orderOf(list), list, {1, 1}} {
+			for _, numbers := range [][]int{sharedOf(list), list, {0}} {
+				text, wholeText := lend(list)
+				order, wholeOrder := lend(places)
+				shared, wholeShared := lend(numbers)
+				beforeText, beforeOrder, beforeShared := slices.Clone(wholeText), slices.Clone(wholeOrder), slices.Clone(wholeShared)
+				suffixes.CheckShared(text, order, shared)
+				if !slices.Equal(wholeText, beforeText) || !slices.Equal(wholeOrder, beforeOrder) || !slices.Equal(wholeShared, beforeShared) {
+					t.Errorf("CheckShared(%v, %v, %v) left %v, %v, %v", list, places, numbers, wholeText, wholeOrder, wholeShared)
+				}
 			}
 		}
 	}
@@ -231,6 +272,63 @@ func TestBuildSharesNothingP2(t *testing.T) {
 				t.Fatalf("the last Build(%v, way %d, by %d) = %v", list, way, by, again)
 			}
 		}
+	}
+}
+
+func TestBeforeAndLongestShareNothingP2(t *testing.T) {
+	const k = math.MaxInt
+	for _, list := range texts() {
+		text, whole := lend(list)
+		handedIn := slices.Clone(whole)
+		wantBefore, wantLongest := beforeOf(list), longestOf(list)
+		before, _ := suffixes.Before(text, k)
+		longest, _ := suffixes.Longest(text, k)
+		otherBefore, _ := suffixes.Before(text, k)
+		otherLongest, _ := suffixes.Longest(text, k)
+		spoil(otherBefore)
+		if !slices.Equal(before, wantBefore) || !slices.Equal(otherLongest, wantLongest) || !slices.Equal(whole, handedIn) {
+			t.Fatalf("Before(%v) shares its list", list)
+		}
+		spoil(otherLongest)
+		if !slices.Equal(before, wantBefore) || !slices.Equal(longest, wantLongest) || !slices.Equal(whole, handedIn) {
+			t.Fatalf("Longest(%v) shares its list", list)
+		}
+		spoil(before)
+		spoil(longest)
+		before, _ = suffixes.Before(text, k)
+		longest, _ = suffixes.Longest(text, k)
+		if !slices.Equal(before, wantBefore) || !slices.Equal(longest, wantLongest) {
+			t.Fatalf("the last answers for %v: %v, %v", list, before, longest)
+		}
+	}
+}
+
+func TestNeighboursKeepNothingP2(t *testing.T) {
+	text, order, shared := []int{1, 0, 2, 0, 2, 0}, []int{5, 3, 1, 0, 4, 2}, []int{0, 1, 3, 0, 0, 2}
+	before, _ := suffixes.Before(text, 3)
+	longest, _ := suffixes.Longest(text, 3)
+	if !suffixes.CheckShared(text, order, shared) {
+		t.Error("CheckShared of the text = false")
+	}
+	for i := range text {
+		text[i] = 1
+	}
+	if !slices.Equal(before, []int{1, 3, 4, 5, 0, -1}) || !slices.Equal(longest, []int{0, 3, 2, 1, 0, 0}) {
+		t.Errorf("answers changed with the text: %v, %v", before, longest)
+	}
+	before, _ = suffixes.Before(text, 3)
+	longest, _ = suffixes.Longest(text, 3)
+	if !slices.Equal(before, []int{1, 2, 3, 4, 5, -1}) || !slices.Equal(longest, []int{5, 4, 3, 2, 1, 0}) {
+		t.Errorf("answers for the changed text: %v, %v", before, longest)
+	}
+	if suffixes.CheckShared(text, order, shared) {
+		t.Error("CheckShared of the changed text and the old lists = true")
+	}
+	for i := range text {
+		order[i], shared[i] = 5-i, i
+	}
+	if !suffixes.CheckShared(text, order, shared) {
+		t.Error("CheckShared of the changed text and changed lists = false")
 	}
 }
 

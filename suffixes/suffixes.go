@@ -71,9 +71,9 @@ func Build(text []int, k int, way int, by int, check bool) (*api.Result, api.Err
 	if by != api.Kasai && by != api.Phi {
 		return nil, api.ErrOption
 	}
-	order, work := ranks.Order(text)
-	shared := sharedBy(text, order, by)
-	return &api.Result{Order: order, Shared: shared, Work: work}, api.OK
+	sorted := ranks.Sort(text)
+	shared := sharedBy(text, sorted.Order, by)
+	return &api.Result{Order: sorted.Order, Shared: shared, Work: sorted.Rounds}, api.OK
 }
 
 // sharedBy tells what neighbours of the order share, found in one of the two ways.
@@ -85,13 +85,33 @@ func sharedBy(text []int, order []int, by int) []int {
 }
 
 // Before tells of each suffix which one stands ahead of it (P11).
-func Before(text []int, k int) ([]int, api.Errno) { return nil, api.OK }
+func Before(text []int, k int) ([]int, api.Errno) {
+	fault := texts.Fault(text, k)
+	if fault != api.OK {
+		return nil, fault
+	}
+	sorted := ranks.Sort(text)
+	return neighbours.Before(sorted.Order), api.OK
+}
 
 // Longest tells of each suffix what it shares with the one ahead of it (P11).
-func Longest(text []int, k int) ([]int, api.Errno) { return nil, api.OK }
+func Longest(text []int, k int) ([]int, api.Errno) {
+	fault := texts.Fault(text, k)
+	if fault != api.OK {
+		return nil, fault
+	}
+	sorted := ranks.Sort(text)
+	before := neighbours.Before(sorted.Order)
+	return neighbours.Longest(text, before), api.OK
+}
 
 // CheckShared tells whether lists are the order and what neighbours share (P11).
-func CheckShared(text []int, order []int, shared []int) bool { return false }
+func CheckShared(text []int, order []int, shared []int) bool {
+	if !texts.IsOrder(text, order) {
+		return false
+	}
+	return neighbours.IsShared(text, order, shared)
+}
 
 // Reduce tells the marks of a text and their names (P12).
 func Reduce(text []int, k int) ([]int, []int, api.Errno) { return nil, nil, api.OK }
