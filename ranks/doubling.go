@@ -1,5 +1,7 @@
 package ranks
 
+import "suffixes/texts"
+
 // Sorted is the order of a text, and how often beginnings were doubled to find it.
 type Sorted struct {
 	Order  []int
@@ -11,23 +13,11 @@ func Sort(text []int) Sorted {
 	ranks := ByFirst(text, 1)
 	rounds := 0
 	// Beginnings as long as the text are whole suffixes, no two of which are the same.
-	for h := 1; h < len(text) && !allDifferent(ranks); h = 2 * h {
+	for h := 1; h < len(text) && !texts.AllDifferent(ranks); h = 2 * h {
 		ranks = doubled(ranks, h)
 		rounds++
 	}
 	return Sorted{Order: placesByRank(ranks), Rounds: rounds}
-}
-
-// allDifferent tells whether no number of a list stands there twice.
-func allDifferent(list []int) bool {
-	for i := 0; i < len(list); i++ {
-		for j := 0; j < i; j++ {
-			if list[j] == list[i] {
-				return false
-			}
-		}
-	}
-	return true
 }
 
 // doubled makes the ranks by the first 2h symbols from those by the first h; h is 1 or more.

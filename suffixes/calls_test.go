@@ -45,6 +45,9 @@ func TestErrorsComeAloneP1(t *testing.T) {
 			if longest, fault := suffixes.Longest(text, k); fault != want || fault != api.OK && longest != nil {
 				t.Errorf("Longest(%v, %d) = %v, %d, want %d", text, k, longest, fault, want)
 			}
+			if marks, names, fault := suffixes.Reduce(text, k); fault != want || fault != api.OK && (marks != nil || names != nil) {
+				t.Errorf("Reduce(%v, %d) = %v, %v, %d, want %d", text, k, marks, names, fault, want)
+			}
 		}
 	}
 }
@@ -71,8 +74,10 @@ func TestOptionsComeAfterTextsP1(t *testing.T) {
 					t.Errorf("Build(%v, %d, way %d) = %v, %d, want %d", text, k, option, built, fault, want)
 				}
 				want = withOption(textFault, option == 0 || option == 1)
-				if built, fault := suffixes.Build(text, k, 0, option, true); fault != want || (fault == api.OK) != (built != nil) {
-					t.Errorf("Build(%v, %d, by %d) = %v, %d, want %d", text, k, option, built, fault, want)
+				for way := range 3 {
+					if built, fault := suffixes.Build(text, k, way, option, true); fault != want || (fault == api.OK) != (built != nil) {
+						t.Errorf("Build(%v, %d, way %d, by %d) = %v, %d, want %d", text, k, way, option, built, fault, want)
+					}
 				}
 			}
 		}
@@ -114,7 +119,7 @@ func lend(list []int) ([]int, []int) {
 }
 
 func TestWhatIsHandedInStaysP2(t *testing.T) {
-	for _, list := range append(oddLists(), longTexts()...) {
+	for _, list := range slices.Concat(oddLists(), longTexts(), deepTexts()) {
 		for _, k := range []int{0, 1, 3, math.MaxInt} {
 			text, whole := lend(list)
 			before := slices.Clone(whole)
@@ -124,6 +129,7 @@ func TestWhatIsHandedInStaysP2(t *testing.T) {
 			suffixes.Kinds(text, k)
 			suffixes.Before(text, k)
 			suffixes.Longest(text, k)
+			suffixes.Reduce(text, k)
 			if !slices.Equal(whole, before) {
 				t.Errorf("a call with the text %v and k %d left %v", list, k, whole)
 			}
@@ -132,7 +138,7 @@ func TestWhatIsHandedInStaysP2(t *testing.T) {
 }
 
 func TestRanksAndBuildLeaveTheTextP2(t *testing.T) {
-	for _, list := range append(oddLists(), longTexts()...) {
+	for _, list := range slices.Concat(oddLists(), longTexts(), deepTexts()) {
 		for _, k := range []int{0, 1, 3, math.MaxInt} {
 			text, whole := lend(list)
 			before := slices.Clone(whole)
@@ -241,7 +247,7 @@ func TestRanksSharesNothingP2(t *testing.T) {
 
 func TestBuildSharesNothingP2(t *testing.T) {
 	const k = math.MaxInt
-	for _, list := range texts() {
+	for _, list := range append(texts(), deepTexts()...) {
 		order, shared := orderOf(list), sharedOf(list)
 		for option := range 6 {
 			way, by := option%3, option/3
@@ -300,6 +306,54 @@ func TestBeforeAndLongestShareNothingP2(t *testing.T) {
 		if !slices.Equal(before, wantBefore) || !slices.Equal(longest, wantLongest) {
 			t.Fatalf("the last answers for %v: %v, %v", list, before, longest)
 		}
+	}
+}
+
+func TestReduceSharesNothingP2(t *testing.T) {
+	const k = math.MaxInt
+	for _, list := range append(texts(), deepTexts()...) {
+		text, whole := lend(list)
+		before := slices.Clone(whole)
+		wantMarks, wantNames := reduceOf(list)
+		marks, names, _ := suffixes.Reduce(text, k)
+		otherMarks, otherNames, _ := suffixes.Reduce(text, k)
+		spoil(otherMarks)
+		if !slices.Equal(otherNames, wantNames) {
+			t.Fatalf("the marks and names of Reduce(%v) share something", list)
+		}
+		spoil(otherNames)
+		if !slices.Equal(marks, wantMarks) || !slices.Equal(names, wantNames) || !slices.Equal(whole, before) {
+			t.Fatalf("Reduce(%v) shares its lists", list)
+		}
+		spoil(names)
+		if !slices.Equal(marks, wantMarks) {
+			t.Fatalf("the names and marks of Reduce(%v) share something", list)
+		}
+		spoil(marks)
+		marks, names, _ = suffixes.Reduce(text, k)
+		if !slices.Equal(marks, wantMarks) || !slices.Equal(names, wantNames) {
+			t.Fatalf("the last Reduce(%v) = %v, %v, want %v, %v", list, marks, names, wantMarks, wantNames)
+		}
+	}
+}
+
+func TestReduceAndInducedKeepNothingP2(t *testing.T) {
+	text := []int{1, 0, 1, 0, 1, 0, 1}
+	want := api.Result{Order: []int{5, 3, 1, 6, 4, 2, 0}, Shared: []int{0, 2, 4, 0, 1, 3, 5}, Work: 1}
+	marks, names, _ := suffixes.Reduce(text, 3)
+	built, _ := suffixes.Build(text, 3, api.Induced, api.Kasai, true)
+	for i := range text {
+		text[i] = 1
+	}
+	if !slices.Equal(marks, []int{1, 3, 5}) || !slices.Equal(names, []int{1, 1, 0}) || !isResult(built, want) {
+		t.Errorf("answers changed with the text: %v, %v, %v", marks, names, built)
+	}
+	text[3] = 0
+	want = api.Result{Order: []int{3, 6, 2, 5, 1, 4, 0}, Shared: []int{0, 0, 1, 1, 2, 2, 3}}
+	marks, names, _ = suffixes.Reduce(text, 3)
+	built, _ = suffixes.Build(text, 3, api.Induced, api.Kasai, true)
+	if !slices.Equal(marks, []int{3}) || !slices.Equal(names, []int{0}) || !isResult(built, want) {
+		t.Errorf("answers for the changed text: %v, %v, %v", marks, names, built)
 	}
 }
 

@@ -3,6 +3,7 @@ package suffixes
 
 import (
 	"suffixes/api"
+	"suffixes/marks"
 	"suffixes/neighbours"
 	"suffixes/ranks"
 	"suffixes/texts"
@@ -19,8 +20,9 @@ func Dense(text []int, k int) ([]int, int, api.Errno) {
 	if fault != api.OK {
 		return nil, 0, fault
 	}
-	dense, count := texts.Dense(text)
-	return dense, count, api.OK
+	dense := texts.Dense(text)
+	symbols := texts.Alphabet(text)
+	return dense, len(symbols), api.OK
 }
 
 // Buckets tells where the suffixes of each symbol begin (P4).
@@ -71,9 +73,19 @@ func Build(text []int, k int, way int, by int, check bool) (*api.Result, api.Err
 	if by != api.Kasai && by != api.Phi {
 		return nil, api.ErrOption
 	}
+	order, work := sortBy(text, way)
+	shared := sharedBy(text, order, by)
+	return &api.Result{Order: order, Shared: shared, Work: work}, api.OK
+}
+
+// sortBy finds the order in one of the ways, and tells how much work it was.
+func sortBy(text []int, way int) ([]int, int) {
+	if way == api.Induced {
+		sorted := marks.Sort(text)
+		return sorted.Order, sorted.Levels
+	}
 	sorted := ranks.Sort(text)
-	shared := sharedBy(text, sorted.Order, by)
-	return &api.Result{Order: sorted.Order, Shared: shared, Work: sorted.Rounds}, api.OK
+	return sorted.Order, sorted.Rounds
 }
 
 // sharedBy tells what neighbours of the order share, found in one of the two ways.
@@ -114,7 +126,14 @@ func CheckShared(text []int, order []int, shared []int) bool {
 }
 
 // Reduce tells the marks of a text and their names (P12).
-func Reduce(text []int, k int) ([]int, []int, api.Errno) { return nil, nil, api.OK }
+func Reduce(text []int, k int) ([]int, []int, api.Errno) {
+	fault := texts.Fault(text, k)
+	if fault != api.OK {
+		return nil, nil, fault
+	}
+	places, names := marks.Reduce(text)
+	return places, names, api.OK
+}
 
 // Turns tells the turns of a text, in the order of their suffixes (P14).
 func Turns(text []int, k int) ([]int, api.Errno) { return nil, api.OK }

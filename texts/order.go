@@ -42,3 +42,16 @@ func Lesser(a []int, b []int) bool {
 	}
 	return len(a) < len(b)
 }
+
+// Same tells whether two lists have the same numbers.
+func Same(a []int, b []int) bool {
+	if len(a) != len(b) {
+		return false
+	}
+	for i := 0; i < len(a); i++ {
+		if a[i] != b[i] {
+			return false
+		}
+	}
+	return true
+}

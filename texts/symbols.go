@@ -1,20 +1,20 @@
 package texts
 
-// Dense puts for each symbol its number among the different symbols of the text, and counts those.
+// Dense puts for each symbol its number among the different symbols of the text.
 // The text has no symbol below 0.
-func Dense(text []int) ([]int, int) {
-	symbols := alphabet(text)
+func Dense(text []int) []int {
+	symbols := Alphabet(text)
 	dense := make([]int, len(text))
 	for i := 0; i < len(text); i++ {
 		dense[i] = countLesser(symbols, text[i])
 	}
-	return dense, len(symbols)
+	return dense
 }
 
 // Buckets tells for each different symbol, from the least on, how many of the text's symbols are lesser; at last the text's length.
 // The text has no symbol below 0.
 func Buckets(text []int) []int {
-	symbols := alphabet(text)
+	symbols := Alphabet(text)
 	starts := make([]int, len(symbols)+1)
 	for i := 0; i < len(symbols); i++ {
 		starts[i] = countLesser(text, symbols[i])
@@ -23,9 +23,10 @@ func Buckets(text []int) []int {
 	return starts
 }
 
-// alphabet lists the different symbols of a text, from the least on.
+// Alphabet lists the different symbols of a text, from the least on.
 // It goes from symbol to symbol, since symbols are too great to count them in a list by number.
-func alphabet(text []int) []int {
+// The text has no symbol below 0.
+func Alphabet(text []int) []int {
 	symbols := make([]int, 0, len(text))
 	symbol := leastAbove(text, -1)
 	for symbol >= 0 {
@@ -55,4 +56,16 @@ func countLesser(list []int, symbol int) int {
 		}
 	}
 	return count
+}
+
+// AllDifferent tells whether no number of a list stands there twice.
+func AllDifferent(list []int) bool {
+	for i := 0; i < len(list); i++ {
+		for j := 0; j < i; j++ {
+			if list[j] == list[i] {
+				return false
+			}
+		}
+	}
+	return true
 }
