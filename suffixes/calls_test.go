@@ -48,6 +48,9 @@ func TestErrorsComeAloneP1(t *testing.T) {
 			if marks, names, fault := suffixes.Reduce(text, k); fault != want || fault != api.OK && (marks != nil || names != nil) {
 				t.Errorf("Reduce(%v, %d) = %v, %v, %d, want %d", text, k, marks, names, fault, want)
 			}
+			if turns, fault := suffixes.Turns(text, k); fault != want || fault != api.OK && turns != nil {
+				t.Errorf("Turns(%v, %d) = %v, %d, want %d", text, k, turns, fault, want)
+			}
 		}
 	}
 }
@@ -130,6 +133,7 @@ func TestWhatIsHandedInStaysP2(t *testing.T) {
 			suffixes.Before(text, k)
 			suffixes.Longest(text, k)
 			suffixes.Reduce(text, k)
+			suffixes.Turns(text, k)
 			if !slices.Equal(whole, before) {
 				t.Errorf("a call with the text %v and k %d left %v", list, k, whole)
 			}
@@ -354,6 +358,50 @@ func TestReduceAndInducedKeepNothingP2(t *testing.T) {
 	built, _ = suffixes.Build(text, 3, api.Induced, api.Kasai, true)
 	if !slices.Equal(marks, []int{3}) || !slices.Equal(names, []int{0}) || !isResult(built, want) {
 		t.Errorf("answers for the changed text: %v, %v, %v", marks, names, built)
+	}
+}
+
+func TestTurnsSharesNothingP2(t *testing.T) {
+	const k = math.MaxInt
+	for _, list := range append(texts(), deepTexts()...) {
+		text, whole := lend(list)
+		before := slices.Clone(whole)
+		want := turnsOf(list)
+		turns, _ := suffixes.Turns(text, k)
+		other, _ := suffixes.Turns(text, k)
+		built, _ := suffixes.Build(text, k, api.Turned, api.Kasai, true)
+		spoil(other)
+		if !slices.Equal(turns, want) || built == nil || !slices.Equal(built.Order, orderOf(list)) || !slices.Equal(whole, before) {
+			t.Fatalf("Turns(%v) shares its list", list)
+		}
+		spoil(built.Order)
+		if !slices.Equal(turns, want) {
+			t.Fatalf("Order of Build(%v) and Turns share something", list)
+		}
+		spoil(turns)
+		if again, _ := suffixes.Turns(text, k); !slices.Equal(again, want) {
+			t.Fatalf("the last Turns(%v) = %v, want %v", list, again, want)
+		}
+	}
+}
+
+func TestTurnsAndTurnedKeepNothingP2(t *testing.T) {
+	text := []int{1, 0, 1, 0, 1, 0, 1}
+	want := api.Result{Order: []int{5, 3, 1, 6, 4, 2, 0}, Shared: []int{0, 2, 4, 0, 1, 3, 5}, Work: 3}
+	turns, _ := suffixes.Turns(text, 3)
+	built, _ := suffixes.Build(text, 3, api.Turned, api.Kasai, true)
+	for i := range text {
+		text[i] = 1
+	}
+	if !slices.Equal(turns, []int{5, 3, 1}) || !isResult(built, want) {
+		t.Errorf("answers changed with the text: %v, %v", turns, built)
+	}
+	text[3] = 0
+	want = api.Result{Order: []int{3, 6, 2, 5, 1, 4, 0}, Shared: []int{0, 0, 1, 1, 2, 2, 3}, Work: 1}
+	turns, _ = suffixes.Turns(text, 3)
+	built, _ = suffixes.Build(text, 3, api.Turned, api.Kasai, true)
+	if !slices.Equal(turns, []int{3}) || !isResult(built, want) {
+		t.Errorf("answers for the changed text: %v, %v", turns, built)
 	}
 }
 

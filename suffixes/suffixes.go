@@ -7,6 +7,7 @@ import (
 	"suffixes/neighbours"
 	"suffixes/ranks"
 	"suffixes/texts"
+	"suffixes/turns"
 )
 
 // Scan tells whether a text is one over the alphabet 0 to k-1 (P3).
@@ -84,6 +85,10 @@ func sortBy(text []int, way int) ([]int, int) {
 		sorted := marks.Sort(text)
 		return sorted.Order, sorted.Levels
 	}
+	if way == api.Turned {
+		sorted := turns.Sort(text)
+		return sorted.Order, sorted.Turns
+	}
 	sorted := ranks.Sort(text)
 	return sorted.Order, sorted.Rounds
 }
@@ -136,4 +141,10 @@ func Reduce(text []int, k int) ([]int, []int, api.Errno) {
 }
 
 // Turns tells the turns of a text, in the order of their suffixes (P14).
-func Turns(text []int, k int) ([]int, api.Errno) { return nil, api.OK }
+func Turns(text []int, k int) ([]int, api.Errno) {
+	fault := texts.Fault(text, k)
+	if fault != api.OK {
+		return nil, fault
+	}
+	return turns.Rising(text), api.OK
+}
